@@ -32,7 +32,7 @@ func Read(text string) (Number, bool) {
 
 // Text returns the text of a number; ErrSize if it has too many digits.
 func (a Number) Text() (string, api.Errno) {
-	if !a.num.mayFit() || !a.under.mayFit() {
+	if !a.MayHave(api.MaxDigits) {
 		return "", api.ErrSize
 	}
 	num, den := a.num.digits(), a.den().digits()
@@ -46,6 +46,11 @@ func (a Number) Text() (string, api.Errno) {
 		return num, api.OK
 	}
 	return num + "/" + den, api.OK
+}
+
+// MayHave is false only if its numerator or its denominator has more than that many digits.
+func (a Number) MayHave(digits int) bool {
+	return a.num.mayHave(digits) && a.under.mayHave(digits)
 }
 
 // Plus returns the sum. Only a common divisor of the denominators can be left in its terms, so that no divisors of
@@ -91,6 +96,11 @@ func (a Number) Over(b Number) (Number, bool) {
 		return Number{}, false
 	}
 	return a.Times(inLowestTerms(b.below, b.den(), b.num)), true
+}
+
+// Part returns the quotient of two integers, whose result is one, too; b is not 0. No common divisor is looked for.
+func (a Number) Part(b Number) Number {
+	return inLowestTerms(a.below != b.below, a.num.part(b.num), nil)
 }
 
 // Negated returns the number with the other sign.

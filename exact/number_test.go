@@ -124,6 +124,41 @@ func TestLikeRat(t *testing.T) {
 	})
 }
 
+// A quotient of integers that is one is found without looking for common divisors.
+func TestPart(t *testing.T) {
+	trials(func(s *source, n int) {
+		a, b := read(t, s.digits(n)), read(t, s.digits(n))
+		if s.below(2) == 0 {
+			a = a.Negated()
+		}
+		if s.below(2) == 0 {
+			b = b.Negated()
+		}
+		product := a.Times(b)
+		if product.Part(b).Compare(a) != 0 || product.Part(a).Compare(b) != 0 {
+			t.Fatal("a part of a product is not the other factor")
+		}
+		if one := b.Part(b); one.Compare(read(t, "1")) != 0 {
+			t.Fatal("a part of a number by itself is not 1")
+		}
+		want(t, "0 by a number", exact.Number{}.Part(b), "0")
+	})
+}
+
+func TestMayHave(t *testing.T) {
+	ten := read(t, "10")
+	power := read(t, "1")
+	for digits := 1; digits < 700; digits++ {
+		least, _ := read(t, "1").Over(power)
+		for _, a := range []exact.Number{power, power.Negated(), least} {
+			if !a.MayHave(digits) || !a.MayHave(2*digits) || digits > 50 && a.MayHave(digits-30) {
+				t.Fatalf("it is wrong whether a number of %d digits may have them", digits)
+			}
+		}
+		power = power.Times(ten)
+	}
+}
+
 // Numbers may become longer than any that can be written, and short again.
 func TestLong(t *testing.T) {
 	s := source(3)

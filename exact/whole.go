@@ -5,16 +5,12 @@ import (
 	"math/bits"
 	"strconv"
 	"strings"
-
-	"linkwork/api"
 )
 
 const (
 	// group is the greatest power of ten that is easily kept in a word, and groupDigits its digits behind the 1.
 	group       = 1_000_000_000_000_000_000
 	groupDigits = 18
-	// fitWords is a number of words that suffices for MaxDigits digits, each of which needs less than 10/3 bits.
-	fitWords = api.MaxDigits*10/3/64 + 1
 )
 
 // whole is a whole number, the lowest word first, no highest word 0. It is not changed any more once another
@@ -52,9 +48,9 @@ func (a whole) digits() string {
 	return strings.TrimLeft(text, "0")
 }
 
-// mayFit is false only if it has more than MaxDigits digits.
-func (a whole) mayFit() bool {
-	return len(a) <= fitWords
+// mayHave is false only if it has more than that many digits, each of which needs less than 10/3 bits.
+func (a whole) mayHave(digits int) bool {
+	return len(a) <= digits*10/3/64+1
 }
 
 func (a whole) copied() whole {
