@@ -4,6 +4,7 @@ import (
 	"strings"
 
 	"linkwork/api"
+	"linkwork/syntax"
 )
 
 // The limits of scopes.
@@ -37,6 +38,11 @@ func isScope(s api.Scope) bool {
 	return true
 }
 
+func isWord(text string) bool {
+	part := api.Tree{Op: "part", Text: text}
+	return syntax.IsExpr(api.Tree{Op: "ref", Kids: []api.Tree{part}})
+}
+
 // areDims reports whether numbers may be the dimensions of a word.
 func areDims(numbers []int) bool {
 	for _, n := range numbers {
@@ -56,14 +62,6 @@ func isTooLarge(s api.Scope) bool {
 	return len(s.Paths) > maxPaths || len(s.Wholes) > maxWholes
 }
 
-// names is what words mean at the place of an expression.
-type names interface {
-	// path returns the dimensions of each word of a path; false if there is no such path.
-	path(name string) ([][]int, bool)
-	// whole returns the whole number that a word is; false if it is none.
-	whole(word string) (int, bool)
-}
-
 // scope is the names of a scope.
 type scope struct {
 	paths  map[string][][]int
@@ -81,26 +79,12 @@ func newScope(s api.Scope) scope {
 	return in
 }
 
-func (in scope) path(name string) ([][]int, bool) {
+func (in scope) Path(name string) ([][]int, bool) {
 	d, ok := in.paths[name]
 	return d, ok
 }
 
-func (in scope) whole(word string) (int, bool) {
+func (in scope) Whole(word string) (int, bool) {
 	v, ok := in.wholes[word]
 	return v, ok
-}
-
-// loop is the names in the body of a for: those around it, but for its variable.
-type loop struct {
-	names
-	variable string
-	value    int
-}
-
-func (in loop) whole(word string) (int, bool) {
-	if word == in.variable {
-		return in.value, true
-	}
-	return in.names.whole(word)
 }

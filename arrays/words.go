@@ -1,10 +1,9 @@
-package shape
+package arrays
 
 import (
 	"strings"
 
 	"linkwork/api"
-	"linkwork/syntax"
 )
 
 // The Ops of trees for which package api has no name.
@@ -25,11 +24,6 @@ const (
 	kindWhen    = "when"
 	kindReinit  = "reinit"
 )
-
-func isWord(text string) bool {
-	part := api.Tree{Op: opPart, Text: text}
-	return syntax.IsExpr(api.Tree{Op: opRef, Kids: []api.Tree{part}})
-}
 
 // isName reports whether a text is a name of a line.
 func isName(text string) bool {

@@ -1,4 +1,4 @@
-package shape
+package arrays
 
 import (
 	"slices"
@@ -8,7 +8,7 @@ import (
 )
 
 // shapeOf returns the shape of an expression.
-func shapeOf(in names, t api.Tree) (dims, api.Errno) {
+func shapeOf(in Names, t api.Tree) (dims, api.Errno) {
 	switch t.Op {
 	case opRef:
 		if _, ok := wholeOf(in, t); ok {
@@ -82,7 +82,7 @@ func isConstant(t api.Tree) bool {
 }
 
 // pathShape returns the shape of a ref where it is a path.
-func pathShape(in names, ref api.Tree) (dims, api.Errno) {
+func pathShape(in Names, ref api.Tree) (dims, api.Errno) {
 	words, ok := pathOf(in, ref)
 	if !ok {
 		return scalar, api.ErrName
@@ -103,16 +103,16 @@ func pathShape(in names, ref api.Tree) (dims, api.Errno) {
 }
 
 // pathOf returns the dimensions of each part of a ref; false if it is no path.
-func pathOf(in names, ref api.Tree) ([][]int, bool) {
+func pathOf(in Names, ref api.Tree) ([][]int, bool) {
 	var words []string
 	for _, part := range ref.Kids {
 		words = append(words, part.Text)
 	}
-	return in.path(strings.Join(words, "."))
+	return in.Path(strings.Join(words, "."))
 }
 
 // indexError returns why the kids of a part are no index of its word.
-func indexError(in names, kids []api.Tree, numbers []int) api.Errno {
+func indexError(in Names, kids []api.Tree, numbers []int) api.Errno {
 	if len(kids) != len(numbers) {
 		return api.ErrDim
 	}

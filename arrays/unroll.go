@@ -1,4 +1,4 @@
-package shape
+package arrays
 
 import (
 	"strconv"
@@ -12,6 +12,20 @@ const (
 	maxRounds = 4000 // how often bodies of for are gone through
 )
 
+// loop is the names in the body of a for: those around it, but for its variable.
+type loop struct {
+	Names
+	variable string
+	value    int
+}
+
+func (in loop) Whole(word string) (int, bool) {
+	if word == in.variable {
+		return in.value, true
+	}
+	return in.Names.Whole(word)
+}
+
 // unroller makes the lines of a statement.
 type unroller struct {
 	lines  []api.Line
@@ -19,7 +33,7 @@ type unroller struct {
 }
 
 // stmt makes the lines of a statement with a name, whose bodies are in order.
-func (u *unroller) stmt(in names, name string, x api.Stmt) api.Errno {
+func (u *unroller) stmt(in Names, name string, x api.Stmt) api.Errno {
 	switch x.Kind {
 	case kindFor:
 		return u.loop(in, name, x)
@@ -31,7 +45,7 @@ func (u *unroller) stmt(in names, name string, x api.Stmt) api.Errno {
 	return u.pair(in, name, x)
 }
 
-func (u *unroller) body(in names, name string, list []api.Stmt) api.Errno {
+func (u *unroller) body(in Names, name string, list []api.Stmt) api.Errno {
 	for i, x := range list {
 		if err := u.stmt(in, name+"."+strconv.Itoa(i+1), x); err != api.OK {
 			return err
@@ -40,7 +54,7 @@ func (u *unroller) body(in names, name string, list []api.Stmt) api.Errno {
 	return api.OK
 }
 
-func (u *unroller) loop(in names, name string, x api.Stmt) api.Errno {
+func (u *unroller) loop(in Names, name string, x api.Stmt) api.Errno {
 	from, err := valueOf(in, x.From[0])
 	if err != api.OK {
 		return err
@@ -61,7 +75,7 @@ func (u *unroller) loop(in names, name string, x api.Stmt) api.Errno {
 	return api.OK
 }
 
-func (u *unroller) choice(in names, name string, x api.Stmt) api.Errno {
+func (u *unroller) choice(in Names, name string, x api.Stmt) api.Errno {
 	cond := x.Cond[0]
 	v, ok := wholeOf(in, cond)
 	yes := v != 0
@@ -79,7 +93,7 @@ func (u *unroller) choice(in names, name string, x api.Stmt) api.Errno {
 }
 
 // pair makes the lines of an equality or a connection.
-func (u *unroller) pair(in names, name string, x api.Stmt) api.Errno {
+func (u *unroller) pair(in Names, name string, x api.Stmt) api.Errno {
 	isPath := x.Kind == kindConnect
 	left, right := side{x.Left[0], isPath}, side{x.Right[0], isPath}
 	d, err := left.shape(in)
@@ -103,7 +117,7 @@ func (u *unroller) pair(in names, name string, x api.Stmt) api.Errno {
 }
 
 // trigger makes the line of a when.
-func (u *unroller) trigger(in names, name string, x api.Stmt) api.Errno {
+func (u *unroller) trigger(in Names, name string, x api.Stmt) api.Errno {
 	cond, err := side{x.Cond[0], false}.single(in)
 	if err != api.OK {
 		return err
@@ -152,15 +166,15 @@ type side struct {
 	isPath bool
 }
 
-func (x side) shape(in names) (dims, api.Errno) {
+func (x side) shape(in Names) (dims, api.Errno) {
 	if x.isPath {
 		return pathShape(in, x.tree)
 	}
 	return shapeOf(in, x.tree)
 }
 
-func (x side) element(in names, index []int) []api.Tree {
-	m := &maker{names: in}
+func (x side) element(in Names, index []int) []api.Tree {
+	m := &maker{Names: in}
 	if x.isPath {
 		return []api.Tree{m.ref(x.tree, index)}
 	}
@@ -168,7 +182,7 @@ func (x side) element(in names, index []int) []api.Tree {
 }
 
 // single returns the element of a side that must be a scalar.
-func (x side) single(in names) ([]api.Tree, api.Errno) {
+func (x side) single(in Names) ([]api.Tree, api.Errno) {
 	d, err := x.shape(in)
 	switch {
 	case err != api.OK:

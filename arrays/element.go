@@ -1,4 +1,4 @@
-package shape
+package arrays
 
 import (
 	"strconv"
@@ -9,7 +9,7 @@ import (
 // maker makes one element of an expression that has a shape. It counts the trees that it makes, all of which are in
 // that element.
 type maker struct {
-	names
+	Names
 	made int
 }
 

@@ -1,4 +1,4 @@
-package shape
+package arrays
 
 import (
 	"cmp"
@@ -7,8 +7,11 @@ import (
 	"linkwork/api"
 )
 
+// maxWhole is the greatest value of a whole expression, and it may be as much less than 0.
+const maxWhole = 1000000
+
 // valueOf returns the value of a whole expression.
-func valueOf(in names, t api.Tree) (int, api.Errno) {
+func valueOf(in Names, t api.Tree) (int, api.Errno) {
 	v, err := calculated(in, t)
 	switch {
 	case err != api.OK:
@@ -20,7 +23,7 @@ func valueOf(in names, t api.Tree) (int, api.Errno) {
 }
 
 // calculated returns the value of a whole expression, however large that is, if no part of it is too large.
-func calculated(in names, t api.Tree) (int64, api.Errno) {
+func calculated(in Names, t api.Tree) (int64, api.Errno) {
 	switch t.Op {
 	case api.Num:
 		v, err := strconv.ParseInt(t.Text, 10, 64)
@@ -55,7 +58,7 @@ func calculated(in names, t api.Tree) (int64, api.Errno) {
 	return 0, api.ErrType
 }
 
-func valuesOf(in names, list []api.Tree) ([]int64, api.Errno) {
+func valuesOf(in Names, list []api.Tree) ([]int64, api.Errno) {
 	var values []int64
 	for _, t := range list {
 		v, err := valueOf(in, t)
@@ -90,15 +93,15 @@ func operated(op string, values []int64) (int64, api.Errno) {
 }
 
 // wholeOf returns the whole number that a ref is, where it may be one; false if it is none.
-func wholeOf(in names, t api.Tree) (int, bool) {
+func wholeOf(in Names, t api.Tree) (int, bool) {
 	if t.Op != opRef || len(t.Kids) > 1 || len(t.Kids[0].Kids) > 0 {
 		return 0, false
 	}
-	return in.whole(t.Kids[0].Text)
+	return in.Whole(t.Kids[0].Text)
 }
 
 // sizeOf returns the number of elements that a size asks for.
-func sizeOf(in names, t api.Tree) (int64, api.Errno) {
+func sizeOf(in Names, t api.Tree) (int64, api.Errno) {
 	d, err := pathShape(in, t.Kids[0])
 	if err != api.OK {
 		return 0, err
@@ -114,7 +117,7 @@ func sizeOf(in names, t api.Tree) (int64, api.Errno) {
 }
 
 // truthOf returns the value of a truth of whole expressions.
-func truthOf(in names, t api.Tree) (bool, api.Errno) {
+func truthOf(in Names, t api.Tree) (bool, api.Errno) {
 	switch t.Op {
 	case api.True, api.False:
 		return t.Op == api.True, api.OK
@@ -148,7 +151,7 @@ func compared(op string, order int) bool {
 }
 
 // joined returns the value of an and, or, or not. All kids are asked for, since only an if has some that are not needed.
-func joined(in names, t api.Tree) (bool, api.Errno) {
+func joined(in Names, t api.Tree) (bool, api.Errno) {
 	var truths []bool
 	for _, kid := range t.Kids {
 		truth, err := truthOf(in, kid)
