@@ -5,6 +5,7 @@ package arrays
 
 import (
 	"linkwork/api"
+	"linkwork/spelling"
 	"linkwork/syntax"
 )
 
@@ -58,7 +59,7 @@ func Element(in Names, t api.Tree, index []int) (api.Tree, api.Errno) {
 
 // Unroll returns the lines of a statement.
 func Unroll(in Names, name string, x api.Stmt) ([]api.Line, api.Errno) {
-	if !isName(name) {
+	if !spelling.IsName(name) {
 		return nil, api.ErrForm
 	}
 	if err := stmtError(x); err != api.OK {

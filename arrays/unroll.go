@@ -5,6 +5,7 @@ import (
 	"strings"
 
 	"linkwork/api"
+	"linkwork/spelling"
 )
 
 const (
@@ -139,7 +140,7 @@ func (u *unroller) trigger(in Names, name string, x api.Stmt) api.Errno {
 
 func (u *unroller) add(name string, x api.Stmt) api.Errno {
 	switch {
-	case !isName(name):
+	case !spelling.IsName(name):
 		return api.ErrForm
 	case stmtError(x) != api.OK || len(u.lines) == maxLines:
 		return api.ErrSize

@@ -4,11 +4,11 @@ import (
 	"strings"
 
 	"linkwork/api"
+	"linkwork/spelling"
 )
 
 // The greatest lengths of tokens.
 const (
-	maxWord   = 20 // bytes
 	maxString = 40 // bytes between the quotes
 	maxDigits = 15 // digits on one side of the point
 )
@@ -33,23 +33,13 @@ func first(text string) (api.Token, int) {
 
 func word(text string) (api.Token, int) {
 	length := run(text, letter, digit, bar)
-	switch {
-	case length > maxWord:
-		return api.Token{}, 0
-	case isKeyword(text[:length]):
-		return api.Token{Kind: api.TokKey, Text: text[:length]}, length
+	switch found := text[:length]; {
+	case spelling.IsKeyword(found):
+		return api.Token{Kind: api.TokKey, Text: found}, length
+	case spelling.IsWord(found):
+		return api.Token{Kind: api.TokWord, Text: found}, length
 	}
-	return api.Token{Kind: api.TokWord, Text: text[:length]}, length
-}
-
-func isKeyword(text string) bool {
-	switch text {
-	case "and", "connect", "connector", "der", "discrete", "else", "end", "equation", "extends", "false", "flow", "for",
-		"if", "in", "initial", "input", "loop", "model", "not", "or", "parameter", "pre", "redeclare", "reinit",
-		"replaceable", "sample", "size", "sum", "then", "time", "true", "when":
-		return true
-	}
-	return false
+	return api.Token{}, 0
 }
 
 // number returns the number at the beginning of a text. Without digits after it a point is a token of its own.

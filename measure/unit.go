@@ -8,6 +8,7 @@ import (
 	"linkwork/api"
 	"linkwork/exact"
 	"linkwork/rat"
+	"linkwork/spelling"
 )
 
 const (
@@ -73,7 +74,7 @@ func read(u string) (exponents, bool) {
 // symbolOf returns the letters that a factor begins with.
 func symbolOf(factor string) string {
 	end := 0
-	for end < len(factor) && isLetter(factor[end]) {
+	for end < len(factor) && spelling.IsLetter(factor[end]) {
 		end++
 	}
 	return factor[:end]
@@ -81,10 +82,6 @@ func symbolOf(factor string) string {
 
 func isSymbol(text string) bool {
 	return text != "" && len(text) <= maxSymbol && symbolOf(text) == text
-}
-
-func isLetter(c byte) bool {
-	return 'a' <= c && c <= 'z' || 'A' <= c && c <= 'Z'
 }
 
 // exponentOf returns the exponent that what is behind a symbol says; false if it says none, or 0.

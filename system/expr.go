@@ -5,6 +5,7 @@ import (
 
 	"linkwork/api"
 	"linkwork/rat"
+	"linkwork/spelling"
 )
 
 // sizeOf returns how many expressions there are in one; false if it is too large, which is found without going
@@ -91,7 +92,7 @@ func (op operator) fitsText(text string) bool {
 	case numberText:
 		return rat.Is(text)
 	case nameText:
-		return isName(text)
+		return spelling.IsName(text)
 	}
 	return text == ""
 }

@@ -5,6 +5,7 @@ import (
 
 	"linkwork/api"
 	"linkwork/rat"
+	"linkwork/spelling"
 )
 
 const (
@@ -34,7 +35,7 @@ func isUnit(unit string) bool {
 // symbolOf returns the letters that a factor begins with.
 func symbolOf(factor string) string {
 	end := 0
-	for end < len(factor) && isLetter(factor[end]) {
+	for end < len(factor) && spelling.IsLetter(factor[end]) {
 		end++
 	}
 	return factor[:end]

@@ -5,6 +5,7 @@ import (
 
 	"linkwork/api"
 	"linkwork/rat"
+	"linkwork/spelling"
 )
 
 // scope is where expressions of a system belong: its variables and the operators, both by their names.
@@ -55,7 +56,7 @@ func (in scope) valid(s api.System) bool {
 
 // named reports whether all parts have names, which rise.
 func named[T any](parts []T, name func(part T) string) bool {
-	return every(parts, func(part T) bool { return isName(name(part)) }) && rising(parts, byName(name))
+	return every(parts, func(part T) bool { return spelling.IsName(name(part)) }) && rising(parts, byName(name))
 }
 
 // rising reports whether each part is greater than the one before it.
@@ -98,31 +99,6 @@ func whenName(w api.When) string {
 
 func actVar(a api.Act) string {
 	return a.Var
-}
-
-// isName reports whether it is a name.
-func isName(name string) bool {
-	if len(name) == 0 || len(name) > api.MaxName || !isLetter(name[0]) {
-		return false
-	}
-	for i := range len(name) {
-		if !isNameByte(name[i]) {
-			return false
-		}
-	}
-	return true
-}
-
-func isLetter(c byte) bool {
-	return 'a' <= c && c <= 'z' || 'A' <= c && c <= 'Z'
-}
-
-func isNameByte(c byte) bool {
-	switch c {
-	case '_', '.', '[', ']', ',', '\'':
-		return true
-	}
-	return isLetter(c) || '0' <= c && c <= '9'
 }
 
 func isTruth(text string) bool {
@@ -237,5 +213,5 @@ func isBind(b api.Bind) bool {
 
 // isUse reports whether an environment may have a value for it.
 func isUse(u api.Use) bool {
-	return isName(u.Name) && u.Order >= 0 && u.Order <= api.MaxOrder && (u.Order == 0 || !u.Pre)
+	return spelling.IsName(u.Name) && u.Order >= 0 && u.Order <= api.MaxOrder && (u.Order == 0 || !u.Pre)
 }
